@@ -1,0 +1,114 @@
+// Package millrace: workers along streams, whose outcome no schedule can change: see DOC.md.
+package millrace
+
+import (
+	"millrace/api"
+	"millrace/nets"
+	"millrace/streams"
+	"millrace/workers"
+)
+
+// Race of workers along streams.
+type Race struct {
+	streams []*streams.Stream
+	workers []*workers.Worker
+}
+
+// New makes a race (P3).
+func New(n api.Net) (*Race, api.Errno) {
+	if !nets.Valid(n) {
+		return nil, api.ErrNet
+	}
+	return &Race{streams: newStreams(n), workers: newWorkers(n)}, api.OK
+}
+
+func newStreams(n api.Net) []*streams.Stream {
+	made := make([]*streams.Stream, len(n.Streams))
+	for i, room := range n.Streams {
+		if nets.HasReader(n, i) {
+			made[i] = streams.WithRoom(room)
+		} else {
+			made[i] = streams.Unread()
+		}
+	}
+	for _, source := range n.Sources {
+		made[source.Stream] = streams.FromSource(source.Words)
+	}
+	return made
+}
+
+func newWorkers(n api.Net) []*workers.Worker {
+	made := make([]*workers.Worker, len(n.Workers))
+	for i, code := range n.Workers {
+		made[i] = workers.New(code)
+	}
+	return made
+}
+
+// Step lets a worker do an instruction (P4).
+func (r *Race) Step(worker int) (int, api.Errno) {
+	if !r.hasWorker(worker) {
+		return 0, api.ErrArg
+	}
+	return r.workers[worker].Step(r.streams), api.OK
+}
+
+// Run some steps (P4).
+func (r *Race) Run(schedule ...int) (int, api.Errno) {
+	done := 0
+	for _, worker := range schedule {
+		what, errno := r.Step(worker)
+		if errno != api.OK {
+			return done, errno
+		}
+		if what == workers.Did {
+			done++
+		}
+	}
+	return done, api.OK
+}
+
+// Grow makes room (P5).
+func (r *Race) Grow() (int, api.Errno) { return 0, api.OK }
+
+// Flow lets all go on (P6).
+func (r *Race) Flow(most int) (int, api.Errno) { return 0, api.OK }
+
+// Look at a worker (P7).
+func (r *Race) Look(worker int) (api.Look, api.Errno) {
+	if !r.hasWorker(worker) {
+		return api.Look{}, api.ErrArg
+	}
+	return r.workers[worker].Look(r.streams), api.OK
+}
+
+// History of a stream (P7).
+func (r *Race) History(stream int) ([]int, api.Errno) {
+	if !r.hasStream(stream) {
+		return nil, api.ErrArg
+	}
+	return r.streams[stream].History(), api.OK
+}
+
+// Room of a stream (P7).
+func (r *Race) Room(stream int) (int, int, api.Errno) {
+	if !r.hasStream(stream) {
+		return 0, 0, api.ErrArg
+	}
+	room, words := r.streams[stream].Room()
+	return room, words, api.OK
+}
+
+// Save the state (P8).
+func (r *Race) Save() []byte { return nil }
+
+// Load a state (P8).
+func Load(n api.Net, state []byte) (*Race, api.Errno) { return nil, api.OK }
+
+func (r *Race) hasWorker(worker int) bool {
+	return worker >= 0 && worker < len(r.workers)
+}
+
+func (r *Race) hasStream(stream int) bool {
+	return stream >= 0 && stream < len(r.streams)
+}

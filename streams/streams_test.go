@@ -1,0 +1,103 @@
+package streams
+
+import (
+	"slices"
+	"testing"
+)
+
+func take(t *testing.T, s *Stream, word, what int) {
+	t.Helper()
+	if got, came := s.Take(); got != word || came != what {
+		t.Errorf("Take = %d, %d, want %d, %d", got, came, word, what)
+	}
+}
+
+func put(t *testing.T, s *Stream, word int, want bool) {
+	t.Helper()
+	if got := s.Put(word); got != want {
+		t.Errorf("Put(%d) = %v", word, got)
+	}
+}
+
+func tells(t *testing.T, s *Stream, waiting, full bool, room, words int, history ...int) {
+	t.Helper()
+	if s.Waiting() != waiting || s.Full() != full {
+		t.Errorf("Waiting, Full = %v, %v", s.Waiting(), s.Full())
+	}
+	if a, b := s.Room(); a != room || b != words {
+		t.Errorf("Room = %d, %d, want %d, %d", a, b, room, words)
+	}
+	if got := s.History(); !slices.Equal(got, history) {
+		t.Errorf("History = %v, want %v", got, history)
+	}
+}
+
+func TestSource(t *testing.T) {
+	words := []int{5, 6}
+	s := FromSource(words)
+	words[1] = 9
+	tells(t, s, false, false, 0, 0)
+	take(t, s, 5, Came)
+	tells(t, s, false, false, 0, 0, 5)
+	take(t, s, 6, Came)
+	take(t, s, 0, Ended)
+	take(t, s, 0, Ended)
+	tells(t, s, false, false, 0, 0, 5, 6)
+}
+
+func TestSourceOfNothing(t *testing.T) {
+	s := FromSource(nil)
+	tells(t, s, false, false, 0, 0)
+	take(t, s, 0, Ended)
+}
+
+func TestRoom(t *testing.T) {
+	s := WithRoom(2)
+	tells(t, s, true, false, 2, 0)
+	take(t, s, 0, Empty)
+	put(t, s, 7, true)
+	tells(t, s, false, false, 2, 1, 7)
+	put(t, s, 8, true)
+	put(t, s, 9, false)
+	tells(t, s, false, true, 2, 2, 7, 8)
+	take(t, s, 7, Came)
+	put(t, s, 9, true)
+	tells(t, s, false, true, 2, 2, 7, 8, 9)
+	take(t, s, 8, Came)
+	take(t, s, 9, Came)
+	take(t, s, 0, Empty)
+	tells(t, s, true, false, 2, 0, 7, 8, 9)
+}
+
+func TestUnread(t *testing.T) {
+	s := Unread()
+	var all []int
+	for i := range 1000 {
+		put(t, s, i, true)
+		all = append(all, i)
+	}
+	tells(t, s, true, false, 0, 0, all...)
+}
+
+func TestHistoryIsTheCallers(t *testing.T) {
+	read, unread, source := WithRoom(6), Unread(), FromSource([]int{0, 1, 2, 3, 4})
+	for i := range 3 {
+		read.Put(i)
+		unread.Put(i)
+		source.Take()
+	}
+	for _, s := range []*Stream{read, unread, source} {
+		list := s.History()
+		for i := range list[:cap(list)] {
+			list[:cap(list)][i] = 99
+		}
+		if got := s.History(); !slices.Equal(got, []int{0, 1, 2}) {
+			t.Errorf("History = %v", got)
+		}
+	}
+	take(t, source, 3, Came)
+	put(t, unread, 3, true)
+	if got := unread.History(); !slices.Equal(got, []int{0, 1, 2, 3}) {
+		t.Errorf("History = %v", got)
+	}
+}
