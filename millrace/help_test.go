@@ -1,6 +1,7 @@
 package millrace_test
 
 import (
+	"reflect"
 	"slices"
 	"testing"
 
@@ -80,5 +81,56 @@ func room(t *testing.T, r *millrace.Race, stream, want, words int) {
 	t.Helper()
 	if a, b, errno := r.Room(stream); a != want || b != words || errno != api.OK {
 		t.Errorf("P7: Room(%d) = %d, %d, %d, want %d, %d", stream, a, b, errno, want, words)
+	}
+}
+
+func grow(t *testing.T, r *millrace.Race, want int, errno api.Errno) {
+	t.Helper()
+	if stream, got := r.Grow(); stream != want || got != errno {
+		t.Fatalf("P5: Grow = %d, %d, want %d, %d", stream, got, want, errno)
+	}
+}
+
+func flow(t *testing.T, r *millrace.Race, most, want int, errno api.Errno) {
+	t.Helper()
+	if done, got := r.Flow(most); done != want || got != errno {
+		t.Fatalf("P6: Flow(%d) = %d, %d, want %d, %d", most, done, got, want, errno)
+	}
+}
+
+// all that a race tells of itself.
+type all struct {
+	looks     []api.Look
+	histories [][]int
+	rooms     [][2]int
+}
+
+func tell(r *millrace.Race, n api.Net) all {
+	var a all
+	for w := range n.Workers {
+		seen, _ := r.Look(w)
+		a.looks = append(a.looks, seen)
+	}
+	for s := range n.Streams {
+		words, _ := r.History(s)
+		a.histories = append(a.histories, append([]int{}, words...))
+		size, inside, _ := r.Room(s)
+		a.rooms = append(a.rooms, [2]int{size, inside})
+	}
+	return a
+}
+
+// unchanged: a call that is to change nothing does so.
+func unchanged(t *testing.T, r *millrace.Race, n api.Net, call func()) {
+	t.Helper()
+	before := tell(r, n)
+	call()
+	same(t, "P1", before, tell(r, n))
+}
+
+func same(t *testing.T, promise string, one, other all) {
+	t.Helper()
+	if !reflect.DeepEqual(one, other) {
+		t.Fatalf("%s: %+v, and %+v", promise, one, other)
 	}
 }

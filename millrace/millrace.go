@@ -69,10 +69,76 @@ func (r *Race) Run(schedule ...int) (int, api.Errno) {
 }
 
 // Grow makes room (P5).
-func (r *Race) Grow() (int, api.Errno) { return 0, api.OK }
+func (r *Race) Grow() (int, api.Errno) {
+	tight, found := r.tightest()
+	if !found || r.canGoOn() {
+		return 0, api.ErrState
+	}
+	if room, _ := r.streams[tight].Room(); room == api.MaxGrown {
+		return 0, api.ErrCap
+	}
+	r.streams[tight].Grow()
+	return tight, api.OK
+}
+
+func (r *Race) canGoOn() bool {
+	for _, w := range r.workers {
+		if w.State(r.streams) == workers.Did {
+			return true
+		}
+	}
+	return false
+}
+
+// tightest: of the streams that a worker waits to write to, the first one of those with the least room.
+func (r *Race) tightest() (int, bool) {
+	tight, least, found := 0, 0, false
+	for i, s := range r.streams {
+		room, _ := s.Room()
+		if r.needsRoom(i) && (!found || room < least) {
+			tight, least, found = i, room, true
+		}
+	}
+	return tight, found
+}
+
+// needsRoom tells if a worker waits to write to a stream.
+func (r *Race) needsRoom(stream int) bool {
+	for _, w := range r.workers {
+		if at, waits := w.NeedsRoom(r.streams); waits && at == stream {
+			return true
+		}
+	}
+	return false
+}
 
 // Flow lets all go on (P6).
-func (r *Race) Flow(most int) (int, api.Errno) { return 0, api.OK }
+func (r *Race) Flow(most int) (int, api.Errno) {
+	if most < 0 || most > api.MaxFlow {
+		return 0, api.ErrArg
+	}
+	done := 0
+	for done < most {
+		if r.stepFirst() {
+			done++
+			continue
+		}
+		if _, errno := r.Grow(); errno != api.OK {
+			return done, errno
+		}
+	}
+	return done, api.OK
+}
+
+// stepFirst lets the first worker that can do an instruction do one; trying those that cannot changes nothing.
+func (r *Race) stepFirst() bool {
+	for _, w := range r.workers {
+		if w.Step(r.streams) == workers.Did {
+			return true
+		}
+	}
+	return false
+}
 
 // Look at a worker (P7).
 func (r *Race) Look(worker int) (api.Look, api.Errno) {

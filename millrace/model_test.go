@@ -1,79 +1,24 @@
 package millrace_test
 
 import (
+	"slices"
 	"testing"
 
 	"millrace/api"
 	"millrace/millrace"
 )
 
-// dice: numbers that are the same in every run of the tests.
-type dice uint64
-
-func (d *dice) roll(sides int) int {
-	*d = *d*6364136223846793005 + 1442695040888963407
-	return int(uint64(*d)>>33) % sides
-}
-
-// drawNet: some net. A stream's reader and writer are drawn first, so that the programs keep to them.
-func drawNet(d *dice) api.Net {
-	n := api.Net{Workers: make([][]api.Ins, 1+d.roll(4))}
-	reads, writes := make([][]int, len(n.Workers)), make([][]int, len(n.Workers))
-	for s := range 1 + d.roll(8) {
-		n.Streams = append(n.Streams, 1+d.roll(3))
-		if w := d.roll(len(n.Workers) + 1); w < len(n.Workers) {
-			reads[w] = append(reads[w], s)
-		}
-		if w := d.roll(len(n.Workers) + 2); w < len(n.Workers) {
-			writes[w] = append(writes[w], s)
-		} else if w == len(n.Workers) {
-			n.Sources = append(n.Sources, api.Source{Stream: s, Words: drawWords(d)})
-		}
-	}
-	for w := range n.Workers {
-		size := 1 + d.roll(12)
-		for range size {
-			n.Workers[w] = append(n.Workers[w], drawIns(d, size, reads[w], writes[w]))
-		}
-	}
-	return n
-}
-
-func drawWords(d *dice) []int {
-	words := make([]int, d.roll(6))
-	for i := range words {
-		words[i] = d.roll(9) - 4
-	}
-	return words
-}
-
-func drawIns(d *dice, size int, reads, writes []int) api.Ins {
-	op := []int{api.Read, api.Read, api.Read, api.Write, api.Write, api.Write, api.Set, api.Add, api.Sub, api.Mul, api.Less, api.If, api.Goto}[d.roll(13)]
-	switch {
-	case op == api.Read && len(reads) > 0:
-		return in(op, d.roll(4), reads[d.roll(len(reads))], d.roll(size+1))
-	case op == api.Write && len(writes) > 0:
-		return in(op, d.roll(4), writes[d.roll(len(writes))], 0)
-	case op <= api.Set:
-		return in(api.Set, d.roll(4), 0, d.roll(9)-4)
-	case op == api.If:
-		return in(op, d.roll(4), 0, d.roll(size+1))
-	case op == api.Goto:
-		return in(op, 0, 0, d.roll(size+1))
-	}
-	return in(op, d.roll(4), d.roll(4), d.roll(4))
-}
-
 // model: the document's words put down in the plainest way: histories, and how much of each was read.
 type model struct {
 	net    api.Net
+	rooms  []int
 	looks  []api.Look
 	flowed [][]int
 	read   []int
 }
 
 func newModel(n api.Net) *model {
-	return &model{n, make([]api.Look, len(n.Workers)), make([][]int, len(n.Streams)), make([]int, len(n.Streams))}
+	return &model{n, slices.Clone(n.Streams), make([]api.Look, len(n.Workers)), make([][]int, len(n.Streams)), make([]int, len(n.Streams))}
 }
 
 func (m *model) source(stream int) *api.Source {
@@ -107,7 +52,7 @@ func (m *model) room(stream int) (int, int) {
 	if m.source(stream) != nil || !m.isRead(stream) {
 		return 0, 0
 	}
-	return m.net.Streams[stream], len(m.flowed[stream]) - m.read[stream]
+	return m.rooms[stream], len(m.flowed[stream]) - m.read[stream]
 }
 
 func (m *model) state(worker int) int {
@@ -119,7 +64,7 @@ func (m *model) state(worker int) int {
 	if i.Op == api.Read && m.source(i.B) == nil && m.read[i.B] == len(m.flowed[i.B]) {
 		return 2
 	}
-	if i.Op == api.Write && m.isRead(i.B) && len(m.flowed[i.B])-m.read[i.B] == m.net.Streams[i.B] {
+	if i.Op == api.Write && m.isRead(i.B) && len(m.flowed[i.B])-m.read[i.B] == m.rooms[i.B] {
 		return 3
 	}
 	return 1
@@ -172,6 +117,47 @@ func (m *model) step(worker int) int {
 	return 1
 }
 
+func (m *model) grow() (int, api.Errno) {
+	least := -1
+	for w, seen := range m.looks {
+		switch m.state(w) {
+		case 1:
+			return 0, api.ErrState
+		case 3:
+			s := m.net.Workers[w][seen.Place].B
+			if least < 0 || m.rooms[s] < m.rooms[least] || m.rooms[s] == m.rooms[least] && s < least {
+				least = s
+			}
+		}
+	}
+	if least < 0 {
+		return 0, api.ErrState
+	}
+	if m.rooms[least] == 40 {
+		return 0, api.ErrCap
+	}
+	m.rooms[least]++
+	return least, api.OK
+}
+
+func (m *model) flow(most int) (int, api.Errno) {
+	done := 0
+again:
+	for done < most {
+		for w := range m.looks {
+			if m.state(w) == 1 {
+				m.step(w)
+				done++
+				continue again
+			}
+		}
+		if _, errno := m.grow(); errno != api.OK {
+			return done, errno
+		}
+	}
+	return done, api.OK
+}
+
 // agrees: a race tells all that the model tells.
 func (m *model) agrees(t *testing.T, r *millrace.Race) {
 	t.Helper()
@@ -209,6 +195,51 @@ func TestAsTheModel(t *testing.T) {
 	for what, times := range came[1:] {
 		if times < 500 {
 			t.Errorf("only %d steps came to %d", times, what+1)
+		}
+	}
+}
+
+// Steps with Grow and Flow between them, in nets that are short of room.
+func TestGrowAndFlowAsTheModel(t *testing.T) {
+	d := dice(2)
+	var grew, flowed [5]int
+	for range 1000 {
+		n := draw(&d)
+		r, m := race(t, n), newModel(n)
+		for range 60 {
+			switch d.roll(8) {
+			case 0:
+				stream, errno := m.grow()
+				grew[errno]++
+				grow(t, r, stream, errno)
+			case 1:
+				most := d.roll(12)
+				done, errno := m.flow(most)
+				flow(t, r, most, done, errno)
+			default:
+				w := d.roll(len(n.Workers))
+				want := m.step(w)
+				if what, errno := r.Step(w); what != want || errno != api.OK {
+					t.Fatalf("P4: Step(%d) = %d, %d, want %d, in %+v", w, what, errno, want, n)
+				}
+			}
+			m.agrees(t, r)
+		}
+		done, errno := m.flow(1000)
+		flowed[errno]++
+		flow(t, r, 1000, done, errno)
+		m.agrees(t, r)
+		stream, errno := m.grow()
+		grew[errno]++
+		grow(t, r, stream, errno)
+		m.agrees(t, r)
+		if t.Failed() {
+			t.Fatalf("in the net %+v", n)
+		}
+	}
+	for _, errno := range []api.Errno{api.OK, api.ErrState, api.ErrCap} {
+		if grew[errno] < 100 || flowed[errno] < 100 {
+			t.Errorf("only %d times Grow and %d times Flow came to %d", grew[errno], flowed[errno], errno)
 		}
 	}
 }

@@ -79,6 +79,16 @@ func (s *Stream) Full() bool {
 	return s.held != nil && len(s.held) == cap(s.held)
 }
 
+// Grow gives one more room to a stream that a worker reads: no other has any.
+func (s *Stream) Grow() {
+	wider := make(chan int, cap(s.held)+1)
+	close(s.held)
+	for word := range s.held {
+		wider <- word
+	}
+	s.held = wider
+}
+
 // History: all words that were ever put in; of a source, those that were taken.
 func (s *Stream) History() []int {
 	if s.sourced {

@@ -69,6 +69,49 @@ func TestRoom(t *testing.T) {
 	tells(t, s, true, false, 2, 0, 7, 8, 9)
 }
 
+func TestGrow(t *testing.T) {
+	s := WithRoom(1)
+	put(t, s, 7, true)
+	take(t, s, 7, Came)
+	s.Grow()
+	tells(t, s, true, false, 2, 0, 7)
+	take(t, s, 0, Empty)
+	history := []int{7}
+	for size := 2; size < 40; size++ {
+		for len(history) <= size {
+			history = append(history, 7+len(history))
+			put(t, s, history[len(history)-1], true)
+		}
+		put(t, s, 99, false)
+		tells(t, s, false, true, size, size, history...)
+		s.Grow()
+		tells(t, s, false, false, size+1, size, history...)
+	}
+	for _, word := range history[1:] {
+		take(t, s, word, Came)
+	}
+	take(t, s, 0, Empty)
+	tells(t, s, true, false, 40, 0, history...)
+}
+
+// What is in a stream stays in its order also where more was read and written already.
+func TestGrowBetween(t *testing.T) {
+	s := WithRoom(3)
+	for i := range 3 {
+		put(t, s, i, true)
+	}
+	take(t, s, 0, Came)
+	put(t, s, 3, true)
+	s.Grow()
+	put(t, s, 4, true)
+	put(t, s, 5, false)
+	tells(t, s, false, true, 4, 4, 0, 1, 2, 3, 4)
+	for i := range 4 {
+		take(t, s, i+1, Came)
+	}
+	take(t, s, 0, Empty)
+}
+
 func TestUnread(t *testing.T) {
 	s := Unread()
 	var all []int

@@ -30,11 +30,11 @@ func New(code []api.Ins) *Worker {
 
 // Look at the worker; the streams are all those of its net.
 func (w *Worker) Look(along []*streams.Stream) api.Look {
-	return api.Look{Place: w.place, Registers: w.registers, Steps: w.steps, State: w.state(along)}
+	return api.Look{Place: w.place, Registers: w.registers, Steps: w.steps, State: w.State(along)}
 }
 
-// state: what would come of a step.
-func (w *Worker) state(along []*streams.Stream) int {
+// State: what would come of a step; the streams are all those of the worker's net.
+func (w *Worker) State(along []*streams.Stream) int {
 	if w.place >= len(w.code) {
 		return Done
 	}
@@ -46,6 +46,14 @@ func (w *Worker) state(along []*streams.Stream) int {
 		return WaitsToWrite
 	}
 	return Did
+}
+
+// NeedsRoom: the stream that the worker waits to write to, if it does; the streams are all those of its net.
+func (w *Worker) NeedsRoom(along []*streams.Stream) (int, bool) {
+	if w.State(along) != WaitsToWrite {
+		return 0, false
+	}
+	return w.code[w.place].B, true
 }
 
 // Step does one instruction, if it can; the streams are all those of the worker's net.

@@ -100,6 +100,30 @@ func TestWaitingChangesNothing(t *testing.T) {
 	}
 }
 
+func TestNeedsRoom(t *testing.T) {
+	along := []*streams.Stream{streams.WithRoom(1), streams.Unread(), streams.WithRoom(1), streams.FromSource(nil)}
+	along[2].Put(4)
+	for _, c := range []struct {
+		i      api.Ins
+		stream int
+		waits  bool
+	}{
+		{in(api.Write, 0, 2, 0), 2, true}, {in(api.Write, 0, 0, 0), 0, false}, {in(api.Write, 0, 1, 0), 0, false},
+		{in(api.Read, 0, 0, 0), 0, false}, {in(api.Read, 0, 2, 0), 0, false}, {in(api.Read, 0, 3, 0), 0, false},
+		{in(api.Set, 0, 0, 0), 0, false}, {in(api.Sub, 0, 2, 0), 0, false}, {in(api.Goto, 0, 0, 1), 0, false},
+	} {
+		w := New([]api.Ins{c.i})
+		if stream, waits := w.NeedsRoom(along); stream != c.stream || waits != c.waits {
+			t.Errorf("%+v: NeedsRoom = %d, %v", c.i, stream, waits)
+		}
+	}
+	w := New([]api.Ins{in(api.Goto, 0, 0, 1)})
+	step(t, w, along, Did)
+	if stream, waits := w.NeedsRoom(along); stream != 0 || waits {
+		t.Errorf("of one that is done: NeedsRoom = %d, %v", stream, waits)
+	}
+}
+
 func TestReadAtTheEnd(t *testing.T) {
 	along := []*streams.Stream{streams.FromSource([]int{4})}
 	w := New([]api.Ins{in(api.Read, 0, 0, 2), in(api.Goto, 0, 0, 0)})
