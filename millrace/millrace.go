@@ -4,6 +4,7 @@ package millrace
 import (
 	"millrace/api"
 	"millrace/nets"
+	"millrace/states"
 	"millrace/streams"
 	"millrace/workers"
 )
@@ -28,7 +29,7 @@ func newStreams(n api.Net) []*streams.Stream {
 		if nets.HasReader(n, i) {
 			made[i] = streams.WithRoom(room)
 		} else {
-			made[i] = streams.Unread()
+			made[i] = streams.Unread(room)
 		}
 	}
 	for _, source := range n.Sources {
@@ -166,10 +167,38 @@ func (r *Race) Room(stream int) (int, int, api.Errno) {
 }
 
 // Save the state (P8).
-func (r *Race) Save() []byte { return nil }
+func (r *Race) Save() []byte {
+	var state []byte
+	for _, w := range r.workers {
+		state = w.Save(state)
+	}
+	for _, s := range r.streams {
+		state = s.Save(state)
+	}
+	return state
+}
 
 // Load a state (P8).
-func Load(n api.Net, state []byte) (*Race, api.Errno) { return nil, api.OK }
+func Load(n api.Net, state []byte) (*Race, api.Errno) {
+	r, errno := New(n)
+	if errno != api.OK {
+		return nil, errno
+	}
+	if !states.Read(state, r.load) {
+		return nil, api.ErrState
+	}
+	return r, api.OK
+}
+
+// load into a race of which nobody has taken a step; what it is like if the reader gives up, nobody sees.
+func (r *Race) load(from *states.Reader) {
+	for _, w := range r.workers {
+		w.Load(from)
+	}
+	for _, s := range r.streams {
+		s.Load(from)
+	}
+}
 
 func (r *Race) hasWorker(worker int) bool {
 	return worker >= 0 && worker < len(r.workers)

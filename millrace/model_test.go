@@ -158,6 +158,24 @@ again:
 	return done, api.OK
 }
 
+func (m *model) save() []byte {
+	var numbers []int
+	for _, seen := range m.looks {
+		numbers = append(numbers, seen.Place)
+		numbers = append(numbers, seen.Registers[:]...)
+		numbers = append(numbers, seen.Steps)
+	}
+	for s, words := range m.flowed {
+		if m.source(s) != nil {
+			numbers = append(numbers, m.read[s])
+			continue
+		}
+		numbers = append(numbers, m.rooms[s], m.read[s], len(words))
+		numbers = append(numbers, words...)
+	}
+	return state(numbers...)
+}
+
 // agrees: a race tells all that the model tells.
 func (m *model) agrees(t *testing.T, r *millrace.Race) {
 	t.Helper()

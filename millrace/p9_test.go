@@ -32,6 +32,31 @@ func act(d *dice, r *millrace.Race, n api.Net) {
 	}
 }
 
+// refit: the same sources and workers, with some rooms that P8 takes for a state of the race.
+func refit(d *dice, r *millrace.Race, n api.Net) api.Net {
+	n.Streams = slices.Clone(n.Streams)
+	for s := range n.Streams {
+		size, _, _ := r.Room(s)
+		sourced := slices.ContainsFunc(n.Sources, func(source api.Source) bool { return source.Stream == s })
+		switch {
+		case sourced:
+			n.Streams[s] = 1 + d.roll(api.MaxRoom)
+		case size > 0: // else nobody reads
+			n.Streams[s] = 1 + d.roll(min(size, api.MaxRoom))
+		}
+	}
+	return n
+}
+
+// reload: the race that Load makes of its state, half the time of a net with other rooms.
+func reload(t *testing.T, d *dice, r *millrace.Race, n api.Net) (*millrace.Race, api.Net) {
+	t.Helper()
+	if d.roll(2) == 0 {
+		n = refit(d, r, n)
+	}
+	return load(t, n, r.Save()), n
+}
+
 func isBeginning(short, long []int) bool {
 	return len(short) <= len(long) && slices.Equal(short, long[:len(short)])
 }
@@ -73,21 +98,25 @@ func (o *outcome) holds(t *testing.T, r *millrace.Race, n api.Net) {
 	}
 }
 
-// P9 and P10, in drawn nets: races that differ in rooms, along schedules of their own.
+// P9 and P10, in drawn nets: races that differ in rooms, along schedules of their own, saved and loaded between the steps.
 func TestP9AndP10WhateverTheSchedule(t *testing.T) {
 	d := dice(9)
 	met, grown := 0, 0
 	for range 400 {
 		n := draw(&d)
 		o := newOutcome(n)
-		for range 4 {
+		for k := range 4 {
 			other := withRooms(&d, n)
 			r := race(t, other)
+			begun := other.Streams
 			for range 60 {
 				act(&d, r, other)
+				if k%2 == 1 && d.roll(8) == 0 {
+					r, other = reload(t, &d, r, other)
+				}
 				o.holds(t, r, other)
 			}
-			for s, size := range other.Streams {
+			for s, size := range begun {
 				if now, _, _ := r.Room(s); now > size {
 					grown++
 				}
@@ -102,6 +131,34 @@ func TestP9AndP10WhateverTheSchedule(t *testing.T) {
 	}
 }
 
+// P9 and P10, in drawn nets: races that go on from one state, each along a schedule of its own.
+func TestP9AndP10FromOneState(t *testing.T) {
+	d := dice(10)
+	words := 0
+	for range 400 {
+		n := withRooms(&d, draw(&d))
+		o := newOutcome(n)
+		r := race(t, n)
+		for range d.roll(40) {
+			act(&d, r, n)
+			o.holds(t, r, n)
+		}
+		for range 4 {
+			s, other := reload(t, &d, r, n)
+			for range 40 {
+				act(&d, s, other)
+				o.holds(t, s, other)
+			}
+		}
+		for _, history := range o.histories {
+			words += len(history)
+		}
+	}
+	if words < 2000 {
+		t.Errorf("only %d words", words)
+	}
+}
+
 // P11, in drawn nets: those that Flow brings to ErrState, whatever was done ahead of it.
 func TestP11WhateverTheSchedule(t *testing.T) {
 	d := dice(11)
@@ -112,8 +169,12 @@ func TestP11WhateverTheSchedule(t *testing.T) {
 		for k := range 4 {
 			other := withRooms(&d, n)
 			r := race(t, other)
+			begun := other.Streams
 			for range d.roll(60) {
 				act(&d, r, other)
+				if k%2 == 1 && d.roll(8) == 0 {
+					r, other = reload(t, &d, r, other)
+				}
 			}
 			if _, errno := r.Flow(3000); errno != api.ErrState {
 				continue
@@ -128,7 +189,7 @@ func TestP11WhateverTheSchedule(t *testing.T) {
 					t.Fatalf("P11: stream %d: %v, elsewhere %v, in race %d of %+v", s, now.histories[s], first[s], k, n)
 				}
 				words += len(first[s])
-				if now.rooms[s][0] > other.Streams[s] {
+				if now.rooms[s][0] > begun[s] {
 					grown++
 				}
 			}
@@ -148,6 +209,9 @@ func TestP11RoomIsMade(t *testing.T) {
 			r := race(t, n)
 			for range d.roll(200) {
 				act(&d, r, n)
+				if d.roll(8) == 0 {
+					r, _ = reload(t, &d, r, n)
+				}
 			}
 			if _, errno := r.Flow(100000); errno != api.ErrState {
 				t.Fatalf("P6: Flow = %d", errno)
@@ -199,7 +263,7 @@ func (w *watched) holdsP12(t *testing.T) {
 	}
 }
 
-// P12, in drawn nets.
+// P12, in drawn nets, saved and loaded between the steps.
 func TestP12WhateverTheSchedule(t *testing.T) {
 	d := dice(13)
 	full, grown := 0, 0
@@ -222,6 +286,10 @@ func TestP12WhateverTheSchedule(t *testing.T) {
 				}
 			})
 			w.holdsP12(t)
+			if d.roll(8) == 0 {
+				w.Race, w.net = reload(t, &d, w.Race, w.net)
+				w.holdsP12(t)
+			}
 		}
 	}
 	if full < 300 || grown < 100 {

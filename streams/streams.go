@@ -1,6 +1,11 @@
 // Package streams: what words flow along, from a worker or a source to a worker or to nobody.
 package streams
 
+import (
+	"millrace/api"
+	"millrace/states"
+)
+
 // What comes of taking a word from a stream.
 const (
 	Came  = iota // there was one
@@ -9,12 +14,13 @@ const (
 )
 
 // Stream of words. Who is at its ends is the net's concern: nobody puts words into one with a source,
-// and nobody takes words from one that New was told nobody reads.
+// and nobody takes words from one that Unread made.
 type Stream struct {
 	sourced bool
 	words   []int    // of a source: all of its words; else all that were ever put in
 	given   int      // of a source: how many of its words were taken
 	held    chan int // what was put in and not taken yet; nil where there is a source or nobody reads
+	unused  int      // where nobody reads: the net's room, which only a state tells of
 }
 
 // FromSource makes a stream that gives out the words of a source.
@@ -27,9 +33,9 @@ func WithRoom(room int) *Stream {
 	return &Stream{held: make(chan int, room)}
 }
 
-// Unread makes a stream that takes all, for nobody reads it.
-func Unread() *Stream {
-	return &Stream{}
+// Unread makes a stream that takes all, for nobody reads it, whatever its room.
+func Unread(room int) *Stream {
+	return &Stream{unused: room}
 }
 
 // Take the first word, if there is one; the second result is Came, Empty or Ended.
@@ -100,4 +106,46 @@ func (s *Stream) History() []int {
 // Room and how many words are in it; none where there is a source or nobody reads.
 func (s *Stream) Room() (int, int) {
 	return cap(s.held), len(s.held)
+}
+
+// Save the stream behind a state.
+func (s *Stream) Save(state []byte) []byte {
+	if s.sourced {
+		return states.Append(state, s.given)
+	}
+	room, read := s.unused, 0
+	if s.held != nil {
+		room, read = cap(s.held), len(s.words)-len(s.held)
+	}
+	state = states.Append(state, room, read, len(s.words))
+	return states.Append(state, s.words...)
+}
+
+// Load into a stream that is as the net made it.
+func (s *Stream) Load(from *states.Reader) {
+	switch {
+	case s.sourced:
+		s.given = from.Within(0, len(s.words))
+	case s.held == nil:
+		s.loadUnread(from)
+	default:
+		s.loadHeld(from)
+	}
+}
+
+func (s *Stream) loadUnread(from *states.Reader) {
+	from.Within(s.unused, s.unused)
+	from.Within(0, 0)
+	s.words = from.Numbers(from.Count())
+}
+
+func (s *Stream) loadHeld(from *states.Reader) {
+	room := from.Within(cap(s.held), api.MaxGrown)
+	read := from.Count() // what was read was written, and so comes behind
+	written := from.Within(read, read+room)
+	s.words = from.Numbers(written)
+	s.held = make(chan int, room)
+	for _, word := range s.words[read:] {
+		s.held <- word
+	}
 }

@@ -4,6 +4,7 @@ package workers
 import (
 	"millrace/api"
 	"millrace/ops"
+	"millrace/states"
 	"millrace/streams"
 )
 
@@ -122,4 +123,20 @@ func reckoned(op, b, c int) int {
 		return 1
 	}
 	return 0
+}
+
+// Save the worker behind a state.
+func (w *Worker) Save(state []byte) []byte {
+	state = states.Append(state, w.place)
+	state = states.Append(state, w.registers[:]...)
+	return states.Append(state, w.steps)
+}
+
+// Load into the worker.
+func (w *Worker) Load(from *states.Reader) {
+	w.place = from.Within(0, len(w.code))
+	for i := range w.registers {
+		w.registers[i] = from.Number()
+	}
+	w.steps = from.Number()
 }

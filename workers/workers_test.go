@@ -1,10 +1,12 @@
 package workers
 
 import (
+	"bytes"
 	"math"
 	"testing"
 
 	"millrace/api"
+	"millrace/states"
 	"millrace/streams"
 )
 
@@ -101,7 +103,7 @@ func TestWaitingChangesNothing(t *testing.T) {
 }
 
 func TestNeedsRoom(t *testing.T) {
-	along := []*streams.Stream{streams.WithRoom(1), streams.Unread(), streams.WithRoom(1), streams.FromSource(nil)}
+	along := []*streams.Stream{streams.WithRoom(1), streams.Unread(1), streams.WithRoom(1), streams.FromSource(nil)}
 	along[2].Put(4)
 	for _, c := range []struct {
 		i      api.Ins
@@ -148,4 +150,27 @@ func TestCodeIsNotKept(t *testing.T) {
 	code[0] = in(api.Set, 0, 0, 2)
 	step(t, w, nil, Did)
 	look(t, w, nil, api.Look{Place: 1, Registers: [4]int{1}, Steps: 1, State: Done})
+}
+
+func TestState(t *testing.T) {
+	code := []api.Ins{in(api.Set, 1, 0, -5), in(api.Goto, 0, 0, 2)}
+	w := New(code)
+	if got := w.Save([]byte{9}); !bytes.Equal(got, states.Append([]byte{9}, 0, 0, 0, 0, 0, 0)) {
+		t.Errorf("Save = %v", got)
+	}
+	step(t, w, nil, Did)
+	if got := w.Save(nil); !bytes.Equal(got, states.Append(nil, 1, 0, -5, 0, 0, 1)) {
+		t.Errorf("Save = %v", got)
+	}
+	for _, numbers := range [][]int{{0, 1, 2, 3, 4, 5}, {1, -1, math.MinInt, math.MaxInt, 0, math.MinInt}, {2, 0, 0, 0, 0, -1}} {
+		w := New(code)
+		if !states.Read(states.Append(nil, numbers...), w.Load) || !bytes.Equal(w.Save(nil), states.Append(nil, numbers...)) {
+			t.Errorf("Load of %v: %+v", numbers, w)
+		}
+	}
+	for _, numbers := range [][]int{{3, 0, 0, 0, 0, 0}, {-1, 0, 0, 0, 0, 0}, {math.MaxInt, 0, 0, 0, 0, 0}, {math.MinInt, 0, 0, 0, 0, 0}, {0, 0, 0, 0, 0}, {}} {
+		if states.Read(states.Append(nil, numbers...), New(code).Load) {
+			t.Errorf("took %v", numbers)
+		}
+	}
 }
